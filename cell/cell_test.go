@@ -404,6 +404,8 @@ func TestGetOfFormsThatEndPastThePage(t *testing.T) {
 	}
 }
 
+// P6.2, P6.8
+
 func TestGetOfOneByteChanged(t *testing.T) {
 	for what, x := range wellFormed() {
 		b := padded(x.form...)
